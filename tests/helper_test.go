@@ -40,16 +40,22 @@ func numbers(list ...int64) []int64 {
 	return append(slices.Clone(list), extremes...)
 }
 
-// keepList calls f with a list that has unused capacity, and checks that f changes neither the
-// elements nor what lies behind them.
-func keepList(t *testing.T, name string, list []int64, f func(list []int64)) {
+// keep calls f with a list that has unused capacity, filled with last, and checks that f changes
+// neither the elements nor what lies behind them.
+func keep[T comparable](t *testing.T, name string, list []T, last T, f func(list []T)) {
 	t.Helper()
-	backing := append(slices.Clone(list), spare, spare, spare)
+	backing := append(slices.Clone(list), last, last, last)
 	before := slices.Clone(backing)
 	f(backing[:len(list)])
 	if !slices.Equal(backing, before) {
 		t.Errorf("%s: changed its argument %v to %v", name, before, backing)
 	}
+}
+
+// keepList is keep for numbers.
+func keepList(t *testing.T, name string, list []int64, f func(list []int64)) {
+	t.Helper()
+	keep(t, name, list, spare, f)
 }
 
 // twice calls f two times, and checks that its results are equal; it returns them.
