@@ -68,6 +68,23 @@ func twice(t *testing.T, name string, f func() []any) []any {
 	return first
 }
 
+// addedWanted puts x behind all elements with lesser names, of a list with at most most elements.
+func addedWanted[T any](list []T, x T, most int, name func(T) string) ([]T, int64) {
+	more := []T{}
+	for _, y := range list {
+		if name(y) == name(x) {
+			return nil, impl.ErrExists
+		}
+		if name(y) < name(x) {
+			more = append(more, y)
+		}
+	}
+	if len(list) == most {
+		return nil, impl.ErrFull
+	}
+	return append(append(more, x), list[len(more):]...), impl.OK
+}
+
 // nearestOf is the greatest integer that is not greater than x plus 1/2.
 func nearestOf(x *big.Rat) int64 {
 	y := new(big.Rat).Add(x, big.NewRat(1, 2))

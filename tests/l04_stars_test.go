@@ -263,28 +263,11 @@ func TestAddStar(t *testing.T) {
 	}
 }
 
-// addedWanted puts the star behind all stars with lesser names.
-func addedWanted(list []impl.Star, x impl.Star) ([]impl.Star, int64) {
-	more := []impl.Star{}
-	for _, y := range list {
-		if y.Name == x.Name {
-			return nil, impl.ErrExists
-		}
-		if y.Name < x.Name {
-			more = append(more, y)
-		}
-	}
-	if len(list) == 60 {
-		return nil, impl.ErrFull
-	}
-	return append(append(more, x), list[len(more):]...), impl.OK
-}
-
 func TestAddStarForAllCatalogues(t *testing.T) {
 	for _, list := range goodCatalogues() {
 		for _, name := range []string{"a", "a-", "a00", "a000", "a005", "a01", "a30", "a58", "a59", "a59-", "aa", "b", "mira", "mirb", "zz", "zzz"} {
 			x := impl.Star{Name: name, Ascend: 86399, Decl: -324000, Bright: -2000, Faint: 20000}
-			want, wantCode := addedWanted(list, x)
+			want, wantCode := addedWanted(list, x, 60, func(x impl.Star) string { return x.Name })
 			keepStars(t, "AddStar", list, func(list []impl.Star) {
 				got, code := impl.AddStar(list, x)
 				again, codeAgain := impl.AddStar(list, x)
