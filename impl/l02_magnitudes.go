@@ -72,6 +72,9 @@ func RoundFraction(f Fraction) (int64, int64) {
 	return f.nearest(), OK
 }
 
+// magBetween returns the magnitude that is p parts from a and q parts from b, p and q not both 0.
+func magBetween(a, b, p, q int64) int64 { return Fraction{Num: a*q + b*p, Den: p + q}.nearest() }
+
 // BetweenStars returns the magnitude between two comparison stars.
 func BetweenStars(a, b, p, q int64) (int64, int64) {
 	if !ValidMag(a) || !ValidMag(b) || !inRange(p, 0, MaxSteps) || !inRange(q, 0, MaxSteps) {
@@ -80,7 +83,7 @@ func BetweenStars(a, b, p, q int64) (int64, int64) {
 	if p == 0 && q == 0 {
 		return 0, ErrState
 	}
-	return Fraction{Num: a*q + b*p, Den: p + q}.nearest(), OK
+	return magBetween(a, b, p, q), OK
 }
 
 // StepSize returns the size of a step from two comparison stars.
